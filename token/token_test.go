@@ -18,7 +18,7 @@ func open(name string, at int, pairs ...string) api.Token {
 
 func shut(name string, at int) api.Token { return api.Token{Kind: 2, Name: name, At: at} }
 
-func between3(s string, at int) api.Token { return api.Token{Kind: 3, Text: s, At: at} }
+func words(s string, at int) api.Token { return api.Token{Kind: 3, Text: s, At: at} }
 
 func TestWhatIsWrong(t *testing.T) {
 	for _, c := range []struct {
@@ -71,8 +71,8 @@ func TestTokens(t *testing.T) {
 		want []api.Token
 	}{
 		{"", nil}, {"<!---->", nil}, {"<!-- <a> & \" -->", nil}, {"<?a?>", nil}, {"<?a ??>", nil}, {"<?a?b <c> &?>", nil}, {"<?a-b?><!--x-y-z-->", nil}, {"<![CDATA[]]>", nil},
-		{" ", []api.Token{between3(" ", 0)}},
-		{"]]>--?>;#\"'=/", []api.Token{between3("]]>--?>;#\"'=/", 0)}},
+		{" ", []api.Token{words(" ", 0)}},
+		{"]]>--?>;#\"'=/", []api.Token{words("]]>--?>;#\"'=/", 0)}},
 		{"<a>", []api.Token{open("a", 0)}},
 		{"</a>", []api.Token{shut("a", 0)}},
 		{"</a \t\r\n></b>", []api.Token{shut("a", 0), shut("b", 8)}},
@@ -82,21 +82,21 @@ func TestTokens(t *testing.T) {
 		{"<a k = \"1'>/\"\tm='\"&quot;'\n>", []api.Token{open("a", 0, "k", "1'>/", "m", "\"\"")}},
 		{"<a b='1' a='2' B='3'/>", []api.Token{open("a", 0, "b", "1", "a", "2", "B", "3"), shut("a", 0)}},
 		{"<a k='&#65;\t\r\n é&amp;lt;'>", []api.Token{open("a", 0, "k", "A\t\r\n é&lt;")}},
-		{"<a k='1'><a k='2'></a k><b k='3'>"[:18], []api.Token{open("a", 0, "k", "1"), open("a", 9, "k", "2")}},
-		{"x<a>y</a>z", []api.Token{between3("x", 0), open("a", 1), between3("y", 4), shut("a", 5), between3("z", 9)}},
-		{"<a>x<!--c-->y<?o?>z<b/>", []api.Token{open("a", 0), between3("xyz", 3), open("b", 19), shut("b", 19)}},
-		{"<!--c-->x<a>", []api.Token{between3("x", 8), open("a", 9)}},
+		{"<a k='1'><a k='2'>", []api.Token{open("a", 0, "k", "1"), open("a", 9, "k", "2")}},
+		{"x<a>y</a>z", []api.Token{words("x", 0), open("a", 1), words("y", 4), shut("a", 5), words("z", 9)}},
+		{"<a>x<!--c-->y<?o?>z<b/>", []api.Token{open("a", 0), words("xyz", 3), open("b", 19), shut("b", 19)}},
+		{"<!--c-->x<a>", []api.Token{words("x", 8), open("a", 9)}},
 		{"<a><!--c--></a>", []api.Token{open("a", 0), shut("a", 11)}},
-		{"<![CDATA[<b>&amp;]]>&amp;", []api.Token{between3("<b>&amp;&", 9)}},
-		{"<a><![CDATA[]]><![CDATA[]]]><b>", []api.Token{open("a", 0), between3("]", 24), open("b", 28)}},
-		{"<![CDATA[]]]]>", []api.Token{between3("]]", 9)}},
-		{"<![CDATA[]a]]b] ]>]]>", []api.Token{between3("]a]]b] ]>", 9)}},
-		{"<![CDATA[]]><![CDATA[]]a]]>", []api.Token{between3("]]a", 21)}},
-		{"&#x1F600;&apos;<a>", []api.Token{between3("😀'", 0), open("a", 15)}},
-		{"<!----><?a?>&lt;é", []api.Token{between3("<é", 12)}},
-		{"\r\n\t<a>\r\n", []api.Token{between3("\r\n\t", 0), open("a", 3), between3("\r\n", 6)}},
-		{"\u0080\uFFFD\U0010FFFF<\uFFFD->", []api.Token{between3("\u0080\uFFFD\U0010FFFF", 0), open("\uFFFD-", 9)}},
-		{"&#" + strings.Repeat("0", 1000) + "65;", []api.Token{between3("A", 0)}},
+		{"<![CDATA[<b>&amp;]]>&amp;", []api.Token{words("<b>&amp;&", 9)}},
+		{"<a><![CDATA[]]><![CDATA[]]]><b>", []api.Token{open("a", 0), words("]", 24), open("b", 28)}},
+		{"<![CDATA[]]]]>", []api.Token{words("]]", 9)}},
+		{"<![CDATA[]a]]b] ]>]]>", []api.Token{words("]a]]b] ]>", 9)}},
+		{"<![CDATA[]]><![CDATA[]]a]]>", []api.Token{words("]]a", 21)}},
+		{"&#x1F600;&apos;<a>", []api.Token{words("😀'", 0), open("a", 15)}},
+		{"<!----><?a?>&lt;é", []api.Token{words("<é", 12)}},
+		{"\r\n\t<a>\r\n", []api.Token{words("\r\n\t", 0), open("a", 3), words("\r\n", 6)}},
+		{"\u0080\uFFFD\U0010FFFF<\uFFFD->", []api.Token{words("\u0080\uFFFD\U0010FFFF", 0), open("\uFFFD-", 9)}},
+		{"&#" + strings.Repeat("0", 1000) + "65;", []api.Token{words("A", 0)}},
 	} {
 		if l, e, at := All(c.s); !reflect.DeepEqual(l, c.want) || e != api.OK || at != 0 {
 			t.Errorf("T2, T3: All(%q) = %v, %d, %d, want %v", c.s, l, e, at, c.want)
@@ -175,7 +175,7 @@ func TestLongRowsOfPieces(t *testing.T) {
 			case 0, 1, 2, 3:
 				s.WriteString(p[int(n>>8)%len(p)])
 			case 4, 5, 6:
-				s.WriteString("<a k='&amp;é' m = \"<\">"[:19] + "\"/>")
+				s.WriteString("<a k='&amp;é' m = \">\"/>")
 			case 7, 8:
 				s.WriteString("<![CDATA[]x]]]>")
 			case 9:
@@ -196,7 +196,7 @@ func TestWritesOfNothing(t *testing.T) {
 	if r.Write("") != nil || r.Write("\xc3") != nil || r.Write("") != nil || r.Write("\xa9") != nil {
 		t.Error("T4: a token ahead of any tag")
 	}
-	if l := r.Write("<a>"); !reflect.DeepEqual(l, []api.Token{between3("é", 0), open("a", 2)}) {
+	if l := r.Write("<a>"); !reflect.DeepEqual(l, []api.Token{words("é", 0), open("a", 2)}) {
 		t.Errorf("T4: %v", l)
 	}
 	if l := r.Close(); l != nil {
@@ -224,7 +224,7 @@ func TestReadersShareNothing(t *testing.T) {
 	a, b := New(), New()
 	a.Write("<a k='1'>x<b")
 	b.Write("<c k='1")
-	if l := a.Write(">"); !reflect.DeepEqual(l, []api.Token{between3("x", 9), open("b", 10)}) {
+	if l := a.Write(">"); !reflect.DeepEqual(l, []api.Token{words("x", 9), open("b", 10)}) {
 		t.Errorf("G3: %v", l)
 	}
 	b.Write("' k")
@@ -272,11 +272,11 @@ func TestLongItemsByteByByte(t *testing.T) {
 	}{
 		{"<!--" + long + "--><a>", []api.Token{open("a", n+7)}},
 		{"<?o " + long + "?><a>", []api.Token{open("a", n+6)}},
-		{"<![CDATA[" + long + "]]><a>", []api.Token{between3(long, 9), open("a", n+12)}},
-		{long + "<a>", []api.Token{between3(long, 0), open("a", n)}},
+		{"<![CDATA[" + long + "]]><a>", []api.Token{words(long, 9), open("a", n+12)}},
+		{long + "<a>", []api.Token{words(long, 0), open("a", n)}},
 		{"<a k='" + long + "'>", []api.Token{open("a", 0, "k", long)}},
 		{"<" + strings.Repeat("n", n) + ">", []api.Token{open(strings.Repeat("n", n), 0)}},
-		{"&#" + strings.Repeat("0", n) + "65;<a>", []api.Token{between3("A", 0), open("a", n+5)}},
+		{"&#" + strings.Repeat("0", n) + "65;<a>", []api.Token{words("A", 0), open("a", n+5)}},
 		{"<a" + strings.Repeat(" ", n) + ">", []api.Token{open("a", 0)}},
 	} {
 		r := New()
