@@ -4,13 +4,7 @@ import (
 	"unicode/utf8"
 
 	"prune/api"
-)
-
-// The kinds of tokens.
-const (
-	opening = 1 + iota
-	closing
-	text
+	"prune/tags"
 )
 
 // document is what is being read. It embeds the source of its characters, and
@@ -67,20 +61,20 @@ func (d *document) tellText() {
 	if len(d.text.bytes) == 0 {
 		return
 	}
-	d.told = append(d.told, api.Token{Kind: text, Text: string(d.text.bytes), At: d.text.at})
+	d.told = append(d.told, api.Token{Kind: tags.Text, Text: string(d.text.bytes), At: d.text.at})
 	d.text = run{}
 }
 
 func (d *document) tellOpening() {
 	d.tellText()
-	d.told = append(d.told, api.Token{Kind: opening, Name: string(d.name.bytes), Attrs: d.attrs, At: d.tagAt})
+	d.told = append(d.told, api.Token{Kind: tags.Opening, Name: string(d.name.bytes), Attrs: d.attrs, At: d.tagAt})
 	d.attrs = nil // from now on they are the token's own
 	d.names = nil
 }
 
 func (d *document) tellClosing() {
 	d.tellText()
-	d.told = append(d.told, api.Token{Kind: closing, Name: string(d.name.bytes), At: d.tagAt})
+	d.told = append(d.told, api.Token{Kind: tags.Closing, Name: string(d.name.bytes), At: d.tagAt})
 }
 
 // addName refuses the name of an attribute that is there already.

@@ -19,7 +19,7 @@ func Parse(s string) ([]api.Node, api.Errno, int) {
 	if no, at := r.Err(); no != api.OK {
 		return nil, no, at
 	}
-	if g.open != none || g.nodes == nil {
+	if !g.nest.Whole() {
 		return nil, api.ErrForm, len(s)
 	}
 	return g.nodes, api.OK, 0

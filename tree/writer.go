@@ -5,6 +5,7 @@ import (
 
 	"prune/api"
 	"prune/chars"
+	"prune/tags"
 )
 
 // writer writes nodes, in one way or another.
@@ -20,7 +21,7 @@ func (w *writer) plain(k int) {
 		w.WriteString(chars.Escape(n.Text, false))
 		return
 	}
-	w.opening(n)
+	w.WriteString(tags.Begin(n.Name, n.Attrs))
 	if n.Kids == nil {
 		w.WriteString("/>")
 		return
@@ -28,14 +29,6 @@ func (w *writer) plain(k int) {
 	w.WriteString(">")
 	w.kids(n, (*writer).plain)
 	w.WriteString("</" + n.Name + ">")
-}
-
-// opening writes an element's tag as far as its attributes go.
-func (w *writer) opening(n *api.Node) {
-	w.WriteString("<" + n.Name)
-	for _, a := range n.Attrs {
-		w.WriteString(" " + a.Name + `="` + chars.Escape(a.Value, true) + `"`)
-	}
 }
 
 // value writes the value of node k.
