@@ -7,6 +7,7 @@ import (
 	"testing"
 
 	"prune/api"
+	"prune/samples"
 	"prune/token"
 )
 
@@ -136,12 +137,12 @@ func TestAsGiven(t *testing.T) {
 func TestTokensOfNoDocument(t *testing.T) {
 	names := []string{"a", "b", "", "#", "*", "\xff", "text()"}
 	for i := range 3000 {
-		d := dice(i)
-		queries := d.queries()
+		d := samples.Dice(i)
+		queries := d.Queries()
 		p, same := pruner(t, queries...), pruner(t, queries...)
-		for range d.below(60) {
-			x := api.Token{Kind: d.below(5) - 1, Name: d.of(names...), Text: d.of("", "x", "\xff"), At: d.below(9) - 4}
-			if d.below(2) == 0 {
+		for range d.Below(60) {
+			x := api.Token{Kind: d.Below(5) - 1, Name: d.Of(names...), Text: d.Of("", "x", "\xff"), At: d.Below(9) - 4}
+			if d.Below(2) == 0 {
 				x.Attrs = []api.Attr{{}, {}}
 			}
 			if l, again := p.Push(x), same.Push(x); !reflect.DeepEqual(l, again) {

@@ -9,6 +9,7 @@ import (
 	"prune/answer"
 	"prune/api"
 	"prune/chars"
+	"prune/samples"
 	"prune/spine"
 	"prune/token"
 	"prune/tree"
@@ -138,80 +139,12 @@ func certain(t *testing.T, tokens []api.Token, queries []string) []api.Token {
 	return all
 }
 
-// dice chooses by a number.
-type dice uint32
-
-func (d *dice) below(n int) int {
-	*d = *d*1664525 + 1013904223
-	return int(*d>>8) % n
-}
-
-func (d *dice) of(texts ...string) string { return texts[d.below(len(texts))] }
-
-// element tells one with others within, so many deep at the most.
-func (d *dice) element(deep int) string {
-	name := d.of("a", "b", "c")
-	var s strings.Builder
-	s.WriteString("<" + name + d.of("", "", " k='x'", " j='&quot;' k='y'") + ">")
-	for range d.below(8) {
-		if deep == 0 || d.below(2) == 0 {
-			s.WriteString(d.of("x", "y", " ", "&lt;", "<!--c-->", "<![CDATA[&]]>"))
-		} else {
-			s.WriteString(d.element(deep - 1))
-		}
-	}
-	s.WriteString("</" + name + ">")
-	return s.String()
-}
-
-func (d *dice) document() string {
-	return d.of("", "\n", "<?o?> ") + d.element(2+d.below(3)) + d.of("", "\n<!--c-->\t")
-}
-
-func (d *dice) steps(nest int) string {
-	s := ""
-	for range 1 + d.below(3) {
-		test := d.of("a", "b", "c", "*", "text()", "text()")
-		s += d.of("/", "/", "//") + test
-		for nest < 3 && d.below(4) == 0 {
-			s += "[" + d.cond(nest+1) + "]"
-		}
-		if test == "text()" {
-			break
-		}
-	}
-	return s
-}
-
-func (d *dice) cond(nest int) string {
-	switch kind := d.below(8); {
-	case kind == 0 && nest < 3:
-		return "not(" + d.cond(nest+1) + ")"
-	case kind == 1 && nest < 3:
-		return d.cond(nest+1) + d.of(" or ", " and ") + d.cond(nest+1)
-	case kind == 2:
-		return d.of(".", "@k", ".='x'", ".!='x'", "@k='x'", ".//*/@k", "*/@j!='x'")
-	}
-	return d.of("", ".//") + strings.TrimLeft(d.steps(nest), "/") + d.of("", "='x'", "!=''")
-}
-
-func (d *dice) queries() []string {
-	var all []string
-	for range d.below(4) {
-		q := d.of(d.steps(0), d.steps(0), d.steps(0)+"|"+d.steps(0), "/*/text()", "//b/text()", "/a[b]//text()")
-		if len(q) <= 500 {
-			all = append(all, q)
-		}
-	}
-	return all
-}
-
 // Documents and queries that dice choose: what is kept is held against the oracle.
 func TestAgainstOracle(t *testing.T) {
 	shells, none := 0, 0
 	for i := range 10000 {
-		d := dice(i * 7)
-		doc, queries := d.document(), d.queries()
+		d := samples.Dice(i * 7)
+		doc, queries := d.Document(), d.Queries()
 		o := newOracle(t, doc, queries)
 		want := o.plain(0)
 		if slices.Contains(o.shell, true) {
@@ -232,8 +165,8 @@ func TestAgainstOracle(t *testing.T) {
 // What is answered behind each of a document's tokens.
 func TestPushAgainstOracle(t *testing.T) {
 	for i := range 1000 {
-		d := dice(i * 13)
-		doc, queries := d.document(), d.queries()
+		d := samples.Dice(i * 13)
+		doc, queries := d.Document(), d.Queries()
 		tokens, _, _ := token.All(doc)
 		p := pruner(t, queries...)
 		var told []api.Token
@@ -264,8 +197,8 @@ func led(t *testing.T, doc, q string) []string {
 func TestNothingIsMissed(t *testing.T) {
 	found := 0
 	for i := range 5000 {
-		d := dice(i*11 + 5)
-		doc, queries := d.document(), d.queries()
+		d := samples.Dice(i*11 + 5)
+		doc, queries := d.Document(), d.Queries()
 		s, no, _, _ := Project(doc, queries)
 		if again, _, _, _ := Project(s, queries); no != api.OK || again != s {
 			t.Fatalf("X5: %q for %q: %q, of which the projection is %q", doc, queries, s, again)

@@ -4,6 +4,7 @@ import (
 	"strings"
 
 	"prune/api"
+	"prune/steps"
 )
 
 // writer writes a query's plain form.
@@ -17,26 +18,14 @@ func (w *writer) query(paths [][]api.Step) {
 			w.WriteString("|")
 		}
 		for _, s := range path {
-			w.slash(s)
+			w.WriteString(steps.Slash(s))
 			w.step(s)
 		}
 	}
 }
 
-func (w *writer) slash(s api.Step) {
-	if s.Deep {
-		w.WriteString("//")
-	} else {
-		w.WriteString("/")
-	}
-}
-
 func (w *writer) step(s api.Step) {
-	if s.Test == "#" {
-		w.WriteString("text()")
-	} else {
-		w.WriteString(s.Test)
-	}
+	w.WriteString(steps.Test(s))
 	for _, p := range s.Preds {
 		w.WriteString("[")
 		w.cond(p)
@@ -78,7 +67,7 @@ func (w *writer) kids(p api.Pred) {
 }
 
 func (w *writer) value(p api.Pred) {
-	w.steps(p.Steps)
+	w.inner(p.Steps)
 	switch {
 	case p.Attr == "" && p.Steps == nil:
 		w.WriteString(".")
@@ -89,14 +78,14 @@ func (w *writer) value(p api.Pred) {
 	}
 }
 
-// steps writes the steps to a value: ahead of the first one there is no slash, or "." and "//".
-func (w *writer) steps(steps []api.Step) {
-	for i, s := range steps {
+// inner writes the steps to a value: ahead of the first one there is no slash, or "." and "//".
+func (w *writer) inner(path []api.Step) {
+	for i, s := range path {
 		if i == 0 && s.Deep {
 			w.WriteString(".")
 		}
 		if i > 0 || s.Deep {
-			w.slash(s)
+			w.WriteString(steps.Slash(s))
 		}
 		w.step(s)
 	}

@@ -2,16 +2,16 @@ package spine
 
 import (
 	"slices"
-	"strings"
 
 	"prune/api"
 	"prune/query"
+	"prune/steps"
 )
 
-const text = "#"
+const text = steps.Text
 
-// taker takes needed paths, as they are found: the steps, of which the conditions are not looked at, and whether they are whole.
-type taker func(steps []api.Step, whole bool)
+// taker takes needed paths, as they are found: their steps, of which the conditions are not looked at, and whether they are whole.
+type taker func(path []api.Step, whole bool)
 
 // queries finds the needed paths of queries, up to the first one that is wrong.
 func (take taker) queries(queries []string) (api.Errno, int, int) {
@@ -20,21 +20,21 @@ func (take taker) queries(queries []string) (api.Errno, int, int) {
 		if no != api.OK {
 			return no, at, i + 1
 		}
-		for _, steps := range paths {
-			take.along(nil, steps, true)
+		for _, path := range paths {
+			take.along(nil, path, true)
 		}
 	}
 	return api.OK, 0, 0
 }
 
 // along finds what is needed along steps behind others: for their conditions, and at their end (S1).
-func (take taker) along(ahead, steps []api.Step, whole bool) {
-	for i, s := range steps {
+func (take taker) along(ahead, path []api.Step, whole bool) {
+	for i, s := range path {
 		for _, c := range s.Preds {
-			take.cond(slices.Concat(ahead, steps[:i+1]), c)
+			take.cond(slices.Concat(ahead, path[:i+1]), c)
 		}
 	}
-	all := slices.Concat(ahead, steps)
+	all := slices.Concat(ahead, path)
 	take(all, whole && all[len(all)-1].Test != text)
 }
 
@@ -51,21 +51,9 @@ func (take taker) cond(at []api.Step, c api.Pred) {
 }
 
 // written tells a needed path in its plain form (S1).
-func written(steps []api.Step, whole bool) string {
-	var w strings.Builder
-	for _, s := range steps {
-		w.WriteString("/")
-		if s.Deep {
-			w.WriteString("/")
-		}
-		if s.Test == text {
-			w.WriteString("text()")
-		} else {
-			w.WriteString(s.Test)
-		}
-	}
+func written(path []api.Step, whole bool) string {
 	if whole {
-		w.WriteString("#")
+		return steps.Bare(path) + "#"
 	}
-	return w.String()
+	return steps.Bare(path)
 }
